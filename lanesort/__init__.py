@@ -1,0 +1,1 @@
+"""Rows put in order, merged, cut, ranked, grouped and matched, by lanes."""

@@ -1,0 +1,15 @@
+"""Rows of sixteen words: whole numbers from 0 to 4294967295, word 0 first."""
+
+
+def lv_order(x):
+    """Word i of the answer is where the i-th of x's words in order stands."""
+    # sorted leaves words that are the same as they stood: the earlier one stays first.
+    return sorted(range(len(x)), key=lambda place: x[place])
+
+
+def lv_rank(x):
+    """Word i of the answer is which one in order word i of x is."""
+    ranks = [0] * len(x)
+    for rank, place in enumerate(lv_order(x)):
+        ranks[place] = rank
+    return ranks
