@@ -13,3 +13,16 @@ def lv_rank(x):
     for rank, place in enumerate(lv_order(x)):
         ranks[place] = rank
     return ranks
+
+
+def lv_moved(x, at):
+    """Each word of x goes to the place that at says (modulo 16), word 0 first; elsewhere 0."""
+    moved = [0] * 16
+    for word, place in zip(x, at):
+        moved[place % 16] = word
+    return moved
+
+
+def lv_earlier(x):
+    """Word i of the answer is how many words before word i of x are the same."""
+    return [x[:place].count(word) for place, word in enumerate(x)]

@@ -1,15 +1,9 @@
 """Point 1: lv_order and lv_rank."""
 
-import contextlib
-import io
 import unittest
 
+from helper import DOWN, HALF, TOP, UP, check_plain_answers, mixed_rows
 from lanesort.sixteen import lv_order, lv_rank
-
-TOP = 4294967295
-HALF = 2147483648
-UP = list(range(16))
-DOWN = list(range(15, -1, -1))
 
 # Each row with its order and its ranks, worked out by hand.
 WRITTEN_OUT = {
@@ -68,19 +62,6 @@ def counted_order(x):
     return [ranks.index(i) for i in UP]
 
 
-def mixed_rows(how_many, bound):
-    """Rows below bound in no order, the same ones at each run."""
-    state = 12345
-    rows = []
-    for _ in range(how_many):
-        row = []
-        for _ in UP:
-            state = (state * 6364136223846793005 + 1442695040888963407) % 2**64
-            row.append((state >> 32) % bound)
-        rows.append(row)
-    return rows
-
-
 def many_rows():
     rows = [row for row, _, _ in WRITTEN_OUT.values()]
     for bound in (2, 3, 7, 16, 1000, HALF + 1, TOP + 1):
@@ -89,18 +70,6 @@ def many_rows():
     rows += [[HALF - 3 + word for word in row] for row in mixed_rows(40, 6)]
     rows += [[TOP - word for word in row] for row in mixed_rows(40, 6)]
     return rows
-
-
-def refuse_change(*_args, **_kwargs):
-    raise RuntimeError("what was handed in is changed")
-
-
-class FixedList(list):
-    """A list that can't be changed, so that a change that is undone shows too."""
-
-    append = extend = insert = pop = remove = clear = refuse_change
-    sort = reverse = refuse_change
-    __setitem__ = __delitem__ = __iadd__ = __imul__ = refuse_change
 
 
 class OrderTest(unittest.TestCase):
@@ -145,58 +114,10 @@ class BothTest(unittest.TestCase):
             self.assertEqual([ranks[order[i]] for i in UP], UP, x)
             self.assertEqual([order[ranks[i]] for i in UP], UP, x)
 
-    def test_answer_is_sixteen_whole_numbers(self):
+    def test_answers_are_plain_and_nothing_is_changed(self):
         for function in (lv_order, lv_rank):
-            for x in many_rows():
-                answer = function(x)
-                self.assertIs(type(answer), list)
-                self.assertEqual([type(word) for word in answer], [int] * 16)
-
-    def test_what_is_handed_in_is_not_changed(self):
-        for function in (lv_order, lv_rank):
-            for x in many_rows():
-                before = list(x)
-                function(x)
-                self.assertEqual(x, before)
-                self.assertEqual(function(FixedList(x)), function(x))
-
-    def test_answer_is_a_new_list(self):
-        for function in (lv_order, lv_rank):
-            # Here the answer equals what is handed in, but must not be it.
-            x = list(UP)
-            answer = function(x)
-            self.assertIsNot(answer, x)
-            again = function(x)
-            self.assertIsNot(again, answer)
-            answer.clear()
-            self.assertEqual(x, UP)
-            self.assertEqual(again, UP)
-            self.assertEqual(function(x), UP)
-
-    def test_nothing_is_kept_between_calls(self):
-        for function in (lv_order, lv_rank):
-            rows = many_rows()
-            first_time = [function(x) for x in rows]
-            other_way = [function(x) for x in reversed(rows)]
-            self.assertEqual(other_way[::-1], first_time)
-            for x in rows:
-                self.assertEqual(function(x), function(x))
-
-    def test_same_list_with_other_words(self):
-        for function in (lv_order, lv_rank):
-            x = list(UP)
-            self.assertEqual(function(x), UP)
-            x.reverse()
-            self.assertEqual(function(x), DOWN)
-
-    def test_nothing_is_printed(self):
-        out = io.StringIO()
-        err = io.StringIO()
-        with contextlib.redirect_stdout(out), contextlib.redirect_stderr(err):
-            for x in many_rows():
-                lv_order(x)
-                lv_rank(x)
-        self.assertEqual((out.getvalue(), err.getvalue()), ("", ""))
+            answers = check_plain_answers(self, function, [[x] for x in many_rows()])
+            self.assertEqual({len(answer) for answer in answers}, {16})
 
     def test_argument_by_its_name(self):
         self.assertEqual(lv_order(x=list(DOWN)), DOWN)
