@@ -26,3 +26,21 @@ def lv_moved(x, at):
 def lv_earlier(x):
     """Word i of the answer is how many words before word i of x are the same."""
     return [x[:place].count(word) for place, word in enumerate(x)]
+
+
+def lv_first(x):
+    """One number: its bit i is 1 if no word before word i of x is the same."""
+    bits = 0
+    for place, earlier in enumerate(lv_earlier(x)):
+        if earlier == 0:
+            bits |= 1 << place
+    return [bits]
+
+
+def lv_merge(a, s, b, t):
+    """a's and b's keys in order, sixteen and sixteen, then their tags, each where its key is."""
+    keys = a + b
+    tags = s + t
+    order = lv_order(keys)
+    merged = [keys[place] for place in order]
+    return [16] + merged[:16] + [16] + merged[16:] + [32] + [tags[place] for place in order]
