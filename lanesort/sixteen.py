@@ -44,3 +44,20 @@ def lv_merge(a, s, b, t):
     order = lv_order(keys)
     merged = [keys[place] for place in order]
     return [16] + merged[:16] + [16] + merged[16:] + [32] + [tags[place] for place in order]
+
+
+def lv_part(pivot, x, keys):
+    """x's words whose key is below pivot, then the others, then how many are below."""
+    below = [word for word, key in zip(x, keys) if key < pivot]
+    others = [word for word, key in zip(x, keys) if key >= pivot]
+    return [16] + below + others + [1, len(below)]
+
+
+def lv_sums(x, keys):
+    """Word i is the sum, modulo 2^32, of x's words up to i whose key is the same as key i."""
+    totals = {}
+    sums = []
+    for word, key in zip(x, keys):
+        totals[key] = (totals.get(key, 0) + word) % 4294967296
+        sums.append(totals[key])
+    return sums
