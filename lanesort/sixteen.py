@@ -1,18 +1,16 @@
 """Rows of sixteen words: whole numbers from 0 to 4294967295, word 0 first."""
 
+from lanesort.ordering import inverse, order_of
+
 
 def lv_order(x):
     """Word i of the answer is where the i-th of x's words in order stands."""
-    # sorted leaves words that are the same as they stood: the earlier one stays first.
-    return sorted(range(len(x)), key=lambda place: x[place])
+    return order_of(x)
 
 
 def lv_rank(x):
     """Word i of the answer is which one in order word i of x is."""
-    ranks = [0] * len(x)
-    for rank, place in enumerate(lv_order(x)):
-        ranks[place] = rank
-    return ranks
+    return inverse(lv_order(x))
 
 
 def lv_moved(x, at):
@@ -41,7 +39,7 @@ def lv_merge(a, s, b, t):
     """a's and b's keys in order, sixteen and sixteen, then their tags, each where its key is."""
     keys = a + b
     tags = s + t
-    order = lv_order(keys)
+    order = order_of(keys)
     merged = [keys[place] for place in order]
     return [16] + merged[:16] + [16] + merged[16:] + [32] + [tags[place] for place in order]
 
@@ -61,3 +59,12 @@ def lv_sums(x, keys):
         totals[key] = (totals.get(key, 0) + word) % 4294967296
         sums.append(totals[key])
     return sums
+
+
+def lv_runs(x):
+    """Word i is where the run of words that are the same begins that word i is in."""
+    begins = []
+    for place, word in enumerate(x):
+        same = place > 0 and x[place - 1] == word
+        begins.append(begins[place - 1] if same else place)
+    return begins
