@@ -11,6 +11,12 @@ def check_up_to(number, last):
         raise OutOfRange()
 
 
+def check_from_one_to(number, last):
+    if number == 0:
+        raise OutOfRange()
+    check_up_to(number, last)
+
+
 def check_slots(slots):
     for slot in slots:
         check_up_to(slot, 15)
@@ -65,6 +71,10 @@ def check_all_below(numbers, bound):
 def check_in_order(keys):
     # Sorting what is in order already goes through it just once.
     check_rows(keys == sorted(keys))
+
+
+def check_rising(keys):
+    check_rows(keys == sorted(set(keys)))
 
 
 def check_size(how_many):

@@ -2,8 +2,11 @@
 
 from lanesort.basics import BASIC_CALLS
 from lanesort.columns import Store
+from lanesort.groups import GROUPING_CALLS
+from lanesort.matches import MATCHING_CALLS
 from lanesort.moves import MOVING_CALLS
 from lanesort.orders import ORDERING_CALLS
+from lanesort.ranks import RANKING_CALLS
 from lanesort.refusals import KindsDontFit, NoColumn, OutOfRange, RowsDontFit, TooManyRows
 
 # lc_put and lc_order: behind their whole numbers stands a list, with how many numbers it has ahead.
@@ -67,7 +70,13 @@ def call_of(number):
         return BASIC_CALLS[number]
     if number in MOVING_CALLS:
         return MOVING_CALLS[number]
-    return ORDERING_CALLS[number]
+    if number in ORDERING_CALLS:
+        return ORDERING_CALLS[number]
+    if number in RANKING_CALLS:
+        return RANKING_CALLS[number]
+    if number in GROUPING_CALLS:
+        return GROUPING_CALLS[number]
+    return MATCHING_CALLS[number]
 
 
 def carried_out(store, function, x):

@@ -90,6 +90,10 @@ NUMBERS = {
     "lc_count": 16, "lc_cast": 17, "lc_compare": 20, "lc_between": 21, "lc_marks": 22,
     "lc_pick": 30, "lc_lay": 31, "lc_choose": 32, "lc_from": 33, "lc_to": 34, "lc_undo": 35,
     "lc_slice": 36, "lc_rearrange": 37, "lc_order": 40, "lc_sort": 41, "lc_merge": 42,
+    "lc_many": 43, "lc_best": 44, "lc_nth": 45, "lc_ranks": 46, "lc_classes": 47, "lc_earlier": 48,
+    "lc_runs": 49, "lc_stretches": 50, "lc_swaps": 51, "lc_alike": 52, "lc_parts": 60, "lc_shares": 61,
+    "lc_fold": 62, "lc_running": 63, "lc_tops": 64, "lc_seek": 70, "lc_near": 71, "lc_join": 72,
+    "lc_band": 73, "lc_spans": 74, "lc_sets": 75,
 }
 
 MOST = 65536

@@ -70,7 +70,8 @@ class LayTest(unittest.TestCase):
 
     def test_refused(self):
         columns = {
-            0: (2, [5]), 1: (10, [1, 0]), 2: (2, [7, 8]), 3: (2, [7, 8, 9]), 4: (6, [5]), 5: (2, []), 6: (10, [1, 1, 0]),
+            0: (2, [5]), 1: (10, [1, 0]), 2: (2, [7, 8]), 3: (2, [7, 8, 9]),
+            4: (6, [5]), 5: (2, []), 6: (10, [1, 1, 0]),
         }
         for call, number in (
             (("lc_lay", 16, 0, 1, 2), -2),
@@ -308,7 +309,8 @@ class SliceTest(unittest.TestCase):
         calls = [("lc_count", 0, 2, MOST, 0, 1), ("lc_count", 1, 2, MOST, MOST, 1)]
         calls += [("lc_slice", 2, 0, 1, 40000, MOST), ("lc_get", 2, 2, 0, MOST)]
         calls += [("lc_slice", 2, 0, 1, 131072, 0), ("lc_slice", 2, 0, 1, 131071, 1), ("lc_get", 2, 2, 0, 1)]
-        calls += [("lc_slice", 2, 0, 1, 131072, 1), ("lc_slice", 2, 0, 1, MOST, MOST), ("lc_slice", 2, 0, 1, MOST + 1, MOST)]
+        calls += [("lc_slice", 2, 0, 1, 131072, 1), ("lc_slice", 2, 0, 1, MOST, MOST)]
+        calls += [("lc_slice", 2, 0, 1, MOST + 1, MOST)]
         answered = run(calls)
         self.assertEqual(answered[3], [0] + list(range(40000, 40000 + MOST)))
         self.assertEqual(answered[4:], [[0], [1], [0, 131071], [-5], [MOST], [-5]])

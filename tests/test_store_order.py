@@ -219,7 +219,8 @@ class MergeTest(unittest.TestCase):
     def test_too_many_rows(self):
         calls = [("lc_count", 0, 2, MOST, 0, 1), ("lc_fill", 1, 2, 1, TOP), ("lc_fill", 2, 2, 0, 0)]
         calls += [("lc_fill", 3, 6, 1, 0), ("lc_put", 4, 2, [2, 1]), ("lc_merge", 5, 6, 0, 1), ("lc_merge", 5, 6, 1, 0)]
-        calls += [("lc_merge", 5, 6, 0, 3), ("lc_merge", 5, 6, 0, 4), ("lc_merge", 5, 6, 0, 9), ("lc_merge", 5, 5, 0, 1)]
+        calls += [("lc_merge", 5, 6, 0, 3), ("lc_merge", 5, 6, 0, 4)]
+        calls += [("lc_merge", 5, 6, 0, 9), ("lc_merge", 5, 5, 0, 1)]
         calls += [("lc_look", 5), ("lc_look", 6), ("lc_look", 0), ("lc_merge", 5, 6, 2, 0), ("lc_merge", 0, 1, 0, 2)]
         answers = [[-1], [-1], [-4], [-5], [-3], [-2], [-3], [-3], [0, 2, MOST], [MOST], [MOST]]
         self.assertEqual(run(calls)[5:], answers)
