@@ -69,8 +69,8 @@ def lc_swaps(store, a):
 
 def count_swaps(ranks):
     """How many pairs of ranks, all different and from 0 on, stand the wrong way round."""
-    # A tree of counts: place p has how many of the last p & -p ranks up to p have been seen.
-    tree = [0] * (len(ranks) + 1)
+    # A tree of counts: place p has how many of the p & -p ranks just below p have been seen.
+    tree = [0] * len(ranks)
     swaps = 0
     for seen, rank in enumerate(ranks):
         place = rank

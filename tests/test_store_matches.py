@@ -290,11 +290,15 @@ class SpansTest(unittest.TestCase):
         expected = [[MOST], [0], [0], [-1], [-3], [-3], [-1], [0], [-5], [-2]]
         self.assertEqual(run(calls)[7:], expected)
 
-    def test_spans_without_rows_do_not_count_against_others(self):
-        # Were those whose low is above their high taken off, the sum would not be too large.
-        calls = [("lc_put", 0, 0, [0] * 300 + [9] * 300), ("lc_put", 1, 0, [9] * 300 + [0] * 300)]
-        calls += [("lc_fill", 2, 0, 300, 5), ("lc_spans", 3, 4, 0, 1, 2), ("lc_look", 3)]
-        self.assertEqual(run(calls)[3:], [[-1], [-3]])
+    def test_spans_without_rows_do_not_count(self):
+        # 65536 pairs, and a span whose low is above its high: just not too many.
+        calls = [("lc_put", 0, 0, [0] * 256 + [9]), ("lc_put", 1, 0, [9] * 256 + [0]), ("lc_fill", 2, 0, 256, 5)]
+        calls += [("lc_spans", 3, 4, 0, 1, 2), ("lc_look", 4)]
+        self.assertEqual(run(calls)[3:], [[MOST], [0, 2, MOST]])
+        # One pair more is too many, and such a span takes nothing off.
+        calls = [("lc_put", 0, 0, [0, 7, 9]), ("lc_put", 1, 0, [9, 7, 0]), ("lc_fill", 2, 0, MOST - 1, 5)]
+        calls += [("lc_put", 3, 0, [7]), ("lc_slice", 2, 2, 3, 0, MOST), ("lc_spans", 4, 5, 0, 1, 2), ("lc_look", 4)]
+        self.assertEqual(run(calls)[5:], [[-1], [-3]])
 
     def test_large(self):
         calls = [("lc_count", 0, 3, MOST, 0, 10), ("lc_count", 1, 3, MOST, 3, 10), ("lc_count", 2, 3, MOST, 2, 10)]
